@@ -165,7 +165,9 @@ func Leq(a, b api.Level) bool {
 }
 
 // Same says whether two levels are always one.
-func Same(a, b api.Level) bool { return Leq(a, b) && Leq(b, a) }
+func Same(a, b api.Level) bool {
+	return slices.Equal(a.Parts, b.Parts) || Leq(a, b) && Leq(b, a)
+}
 
 // Value is a level with numbers for its variables.
 func Value(l api.Level, numbers []int) int {

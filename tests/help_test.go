@@ -2,6 +2,7 @@
 package tests
 
 import (
+	"fmt"
 	"math/rand"
 	"reflect"
 	"testing"
@@ -52,9 +53,73 @@ func sameValue(a, b reflect.Value) bool {
 func want(t *testing.T, what string, got, wanted any) {
 	t.Helper()
 	if !same(got, wanted) {
-		t.Errorf("%s: got %v, want %v", what, got, wanted)
+		t.Fatalf("%s: got %.300s, want %.300s", what, fmt.Sprint(got), fmt.Sprint(wanted))
 	}
 }
 
 // chance is a row of numbers that is the same each time.
 func chance(seed int64) *rand.Rand { return rand.New(rand.NewSource(seed)) }
+
+// Terms, short.
+func v(n int) api.Term                  { return api.Term{Kind: api.KVar, Num: n} }
+func sort(l ...int) api.Term            { return api.Term{Kind: api.KSort, Levels: []api.Level{lv(l...)}} }
+func pi(a, b api.Term) api.Term         { return node(api.KPi, a, b) }
+func lam(a, b api.Term) api.Term        { return node(api.KLam, a, b) }
+func let(a, t, b api.Term) api.Term     { return node(api.KLet, a, t, b) }
+func sigma(a, b api.Term) api.Term      { return node(api.KSigma, a, b) }
+func tree(a, b api.Term) api.Term       { return node(api.KTree, a, b) }
+func pair(a, b api.Term) api.Term       { return node(api.KPair, a, b) }
+func fst(p api.Term) api.Term           { return node(api.KFst, p) }
+func snd(p api.Term) api.Term           { return node(api.KSnd, p) }
+func sup(a, f api.Term) api.Term        { return node(api.KSup, a, f) }
+func idOf(a, x, y api.Term) api.Term    { return node(api.KId, a, x, y) }
+func refl() api.Term                    { return node(api.KRefl) }
+func fin(n int) api.Term                { return api.Term{Kind: api.KFin, Num: n} }
+func elem(n, of int) api.Term           { return api.Term{Kind: api.KElem, Num: n, At: of} }
+func self(m int) api.Term               { return api.Term{Kind: api.KSelf, At: m} }
+func treeRec(kids ...api.Term) api.Term { return node(api.KTreeRec, kids...) }
+func jay(kids ...api.Term) api.Term     { return node(api.KJ, kids...) }
+
+// node is a term of a kind and its kids.
+func node(k api.TermKind, kids ...api.Term) api.Term { return api.Term{Kind: k, Kids: kids} }
+
+// cas is a case: the motive, the branches, the element.
+func cas(p, x api.Term, branches ...api.Term) api.Term {
+	kids := append([]api.Term{p}, branches...)
+	return api.Term{Kind: api.KCase, At: len(branches), Kids: append(kids, x)}
+}
+
+// app is a term at arguments.
+func app(f api.Term, args ...api.Term) api.Term {
+	for _, a := range args {
+		f = node(api.KApp, f, a)
+	}
+	return f
+}
+
+// pis and lams lay types above the last one of some terms.
+func pis(l ...api.Term) api.Term {
+	b := l[len(l)-1]
+	for i := len(l) - 2; i >= 0; i-- {
+		b = pi(l[i], b)
+	}
+	return b
+}
+
+func lams(l ...api.Term) api.Term {
+	b := l[len(l)-1]
+	for i := len(l) - 2; i >= 0; i-- {
+		b = lam(l[i], b)
+	}
+	return b
+}
+
+// name is a term of a kind with a number, a place and levels.
+func name(k api.TermKind, num, at int, levels ...api.Level) api.Term {
+	return api.Term{Kind: k, Num: num, At: at, Levels: levels}
+}
+
+func con(num int, levels ...api.Level) api.Term      { return name(api.KConst, num, 0, levels...) }
+func ind(num, at int, levels ...api.Level) api.Term  { return name(api.KInd, num, at, levels...) }
+func ctor(num, at int, levels ...api.Level) api.Term { return name(api.KCtor, num, at, levels...) }
+func rec(num, at int, levels ...api.Level) api.Term  { return name(api.KRec, num, at, levels...) }
