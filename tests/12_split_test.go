@@ -73,7 +73,7 @@ func blocks() []api.Decl {
 		ct(0, pis(n, app(self(1), v(0)), app(self(0), app(ctor(0, 1), v(1))))),
 		ct(1, pis(n, app(self(0), v(0)), app(self(1), app(ctor(0, 1), v(1))))))
 	trees := block(2, row(sort(1, 0), pi(v(0), sort(2, 0))), lv(1, 0, 2, 0), members(nil), ct(0, pis(v(1), pi(app(v(1), v(0)), self(0)), self(0))))
-	equal := block(1, row(sort(1, 0), v(0)), lv(), members(row(v(1))), ct(0, app(self(0), v(0))))
+	equal := block(1, row(sort(1, 0), v(0)), lv(1, 0), members(row(v(1))), ct(0, app(self(0), v(0))))
 	acc := block(2, row(sort(1, 0), pis(v(0), v(1), sort(2, 0))), lv(1, 0, 2, 0), members(row(v(1))),
 		ct(0, pis(v(1), pis(v(2), app(v(2), v(0), v(1)), app(self(0), v(1))), app(self(0), v(1)))))
 	both := block(0, nil, lv(), members(nil, nil), ct(0, self(0)), ct(0, pis(self(1), pi(n, self(0)), self(0))), ct(1, pis(self(0), n, self(1), self(1))))
