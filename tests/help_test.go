@@ -5,6 +5,7 @@ import (
 	"fmt"
 	"math/rand"
 	"reflect"
+	"strconv"
 	"testing"
 
 	"spandrel/api"
@@ -20,40 +21,44 @@ func lv(l ...int) (out api.Level) {
 
 // same says whether two things are one, nil lists and empty ones being one.
 func same(a, b any) bool {
-	return sameValue(reflect.ValueOf(a), reflect.ValueOf(b))
+	return differ(reflect.ValueOf(a), reflect.ValueOf(b), "") == ""
 }
 
-func sameValue(a, b reflect.Value) bool {
+// differ is the place of the first part in which two things differ, and what they have there.
+func differ(a, b reflect.Value, place string) string {
 	if a.Kind() != b.Kind() || a.Type() != b.Type() {
-		return false
+		return place + ": other types"
 	}
 	switch a.Kind() {
 	case reflect.Slice:
 		if a.Len() != b.Len() {
-			return false
+			return place + ": length"
 		}
 		for i := range a.Len() {
-			if !sameValue(a.Index(i), b.Index(i)) {
-				return false
+			if d := differ(a.Index(i), b.Index(i), place+"["+strconv.Itoa(i)+"]"); d != "" {
+				return d
 			}
 		}
-		return true
+		return ""
 	case reflect.Struct:
 		for i := range a.NumField() {
-			if !sameValue(a.Field(i), b.Field(i)) {
-				return false
+			if d := differ(a.Field(i), b.Field(i), place+"."+a.Type().Field(i).Name); d != "" {
+				return d
 			}
 		}
-		return true
+		return ""
 	}
-	return a.Interface() == b.Interface()
+	if a.Interface() != b.Interface() {
+		return fmt.Sprint(place, ": ", a, " and ", b)
+	}
+	return ""
 }
 
 // want fails the test, unless got is as wanted.
 func want(t *testing.T, what string, got, wanted any) {
 	t.Helper()
-	if !same(got, wanted) {
-		t.Fatalf("%s: got %.300s, want %.300s", what, fmt.Sprint(got), fmt.Sprint(wanted))
+	if d := differ(reflect.ValueOf(got), reflect.ValueOf(wanted), ""); d != "" {
+		t.Fatalf("%s: got %.300s, want %.300s: at %s", what, fmt.Sprint(got), fmt.Sprint(wanted), d)
 	}
 }
 
