@@ -85,7 +85,8 @@ func TestP14_1(t *testing.T) {
 	}
 	again := lam(sort(), app(v(0), v(0)))
 	loops := append(decls, def(0, sort(), con(5)))
-	for _, x := range []api.Term{app(again, again), con(5), app(rec(0, 0, lv()), v(0), v(0), v(0), con(5))} {
+	grows := lam(sort(), app(v(0), v(0), v(0)))
+	for _, x := range []api.Term{app(again, again), app(grows, grows), con(5), app(rec(0, 0, lv()), v(0), v(0), v(0), con(5))} {
 		if _, _, e := shead.Whnf(loops, x, 300000); e != api.ErrFuel {
 			t.Error("no end")
 		}
