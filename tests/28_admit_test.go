@@ -10,10 +10,12 @@ import (
 	"spandrel/cenv"
 	"spandrel/cert"
 	"spandrel/codes"
+	"spandrel/conv"
 	"spandrel/elim"
 	"spandrel/former"
 	"spandrel/good"
 	"spandrel/nest"
+	"spandrel/sconv"
 	"spandrel/senv"
 	"spandrel/shead"
 	"spandrel/sinfer"
@@ -164,5 +166,41 @@ func TestP28_4(t *testing.T) {
 				t.Fatal("behind a step", y, fault)
 			}
 		}
+	}
+}
+
+// TestCarriedOver holds what is one in the source against the core: it is one there, carried over.
+func TestCarriedOver(t *testing.T) {
+	e := admitted(t, append(world(), rose())...)
+	n, u := ind(0, 0), lv()
+	list := func(l ...api.Term) api.Term {
+		x := app(ctor(1, 0, u), n)
+		for _, a := range l {
+			x = app(ctor(1, 1, u), n, a, x)
+		}
+		return x
+	}
+	length := func(x api.Term) api.Term {
+		typ := app(ind(1, 0, u), n)
+		return app(rec(1, 0, u, u), n, lam(typ, n), number(0), lams(n, typ, n, app(ctor(0, 1), v(0))), x)
+	}
+	all := []api.Term{number(0), number(2), double(number(1)), plus(number(1), number(1)), plus(v(0), number(1)), v(0), app(ctor(0, 1), v(0)), plus(app(ctor(0, 1), v(0)), number(0)),
+		app(ctor(0, 1), plus(v(0), number(0))), length(list(v(0), number(3))), lam(n, app(v(1), v(0))), list(number(2)), list(double(number(1))), lam(n, double(v(0))), lam(n, plus(v(0), number(0)))}
+	over := carry.Terms(e.Decls, e.At, all)
+	ones := 0
+	for i, a := range all {
+		for j, b := range all {
+			yes, _, e1 := sconv.Conv(e.Decls, a, b, 100000)
+			there, _, e2 := conv.Conv(e.Core, over[i], over[j], 10000000)
+			if e1 != api.OK || e2 != api.OK || yes && !there {
+				t.Error("one here, but not there", i, j, e1, e2)
+			}
+			if yes && i != j {
+				ones++
+			}
+		}
+	}
+	if ones < 10 {
+		t.Error("too few are one", ones)
 	}
 }
