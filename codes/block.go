@@ -2,32 +2,11 @@ package codes
 
 import (
 	"spandrel/api"
+	"spandrel/build"
 	"spandrel/tele"
 	"spandrel/term"
+	"spandrel/throw"
 )
-
-// none is thrown for what there is not.
-type none struct{}
-
-// must throws, unless all holds.
-func must(all ...bool) {
-	for _, holds := range all {
-		if !holds {
-			panic(none{})
-		}
-	}
-}
-
-// told is what a call tells; nothing, where it asks for what there is not.
-func told[T any](ask func() T) (out T) {
-	defer func() {
-		if recover() != nil {
-			var nothing T
-			out = nothing
-		}
-	}()
-	return ask()
-}
 
 // work is a block at work: its declaration, carried over, its rules, its base.
 type work struct {
@@ -58,13 +37,13 @@ func (w *work) types(n int, branch func(i int) api.Term) api.Term {
 	for i := range n {
 		branches = append(branches, branch(i))
 	}
-	return Case(lam(w.universe(), finite(n)), branches, variable(0))
+	return Case(lam(w.universe(), build.Fin(n)), branches, build.Var(0))
 }
 
 // choice is a constant that tells of each of n a tuple type of a row.
 func (w *work) choice(n int, row func(i int) []api.Term) api.Core {
 	body := w.types(n, func(i int) api.Term { return Tup(tele.Lifts(row(i), 1, 0)) })
-	return w.code(w.universe(), body, finite(n))
+	return w.code(w.universe(), body, build.Fin(n))
 }
 
 // plains is the tuple type of a constructor's plain arguments.
@@ -76,36 +55,36 @@ func (w *work) plains(c api.Term, far int) api.Term {
 func (w *work) places(r api.Rule, x api.Term, far int) api.Term {
 	recs := Recs(r)
 	if len(recs) == 0 {
-		return finite(0)
+		return build.Fin(0)
 	}
 	values := Parts(term.Lift(x, 1, 0), plain(r, len(r.Args)))
 	rows := w.types(len(recs), func(j int) api.Term { return Tup(Tele(r, recs[j], values, far+1)) })
-	return of(api.KSigma, finite(len(recs)), rows)
+	return build.Of(api.KSigma, build.Fin(len(recs)), rows)
 }
 
 // place is the constant that tells the places of a shape.
 func (w *work) place() api.Core {
 	n := len(w.Ctors)
-	motive := lam(of(api.KPi, w.plains(variable(0), 2), w.universe()), finite(n))
+	motive := lam(build.Of(api.KPi, w.plains(build.Var(0), 2), w.universe()), build.Fin(n))
 	var branches []api.Term
 	for c, r := range w.rules {
-		branches = append(branches, lam(w.places(r, variable(0), 2), w.plains(element(c, n), 1)))
+		branches = append(branches, lam(w.places(r, build.Var(0), 2), w.plains(build.Elem(c, n), 1)))
 	}
-	x := variable(0)
-	body := of(api.KApp, Case(motive, branches, of(api.KFst, x)), of(api.KSnd, x))
+	x := build.Var(0)
+	body := build.Of(api.KApp, Case(motive, branches, build.Of(api.KFst, x)), build.Of(api.KSnd, x))
 	return w.code(w.universe(), body, Shape(w.Decl, w.base, 0))
 }
 
 // tree is the constant of all trees.
 func (w *work) tree() api.Core {
-	body := of(api.KTree, Shape(w.Decl, w.base, 0), tele.Apps(Const(w.Decl, w.base+2, 1), variable(0)))
+	body := build.Of(api.KTree, Shape(w.Decl, w.base, 0), tele.Apps(Const(w.Decl, w.base+2, 1), build.Var(0)))
 	return w.code(w.universe(), body)
 }
 
 // Codes are a block's codes.
 func Codes(d api.Decl, rules []api.Rule, base int) []api.Core {
-	return told(func() []api.Core {
-		must(d.Kind == api.DeclBlock, len(rules) == len(d.Ctors))
+	return throw.Some(func() []api.Core {
+		throw.Must(api.ErrNone, d.Kind == api.DeclBlock, len(rules) == len(d.Ctors))
 		w := &work{d, rules, base}
 		own := w.choice(len(d.Members), func(m int) []api.Term { return d.Members[m].Index })
 		args := w.choice(len(rules), func(c int) []api.Term { return Types(rules[c]) })

@@ -2,6 +2,7 @@ package elim
 
 import (
 	"spandrel/api"
+	"spandrel/build"
 	"spandrel/codes"
 	"spandrel/good"
 	"spandrel/tele"
@@ -15,7 +16,7 @@ func (w *work) walk() api.Core {
 	t, i, g := bound(q), bound(q+1), bound(q+2)
 	typ := pis(w.mot(i, pairs(t, g), q+3), w.tree(q), w.indexType(q+1), w.good(t, i, q+2))
 	far := q + 1
-	rec := of(api.KTreeRec, w.shapeType(far), w.place(variable(0), far+1), w.over(far), w.step(far), variable(0))
+	rec := build.Of(api.KTreeRec, w.shapeType(far), w.place(build.Var(0), far+1), w.over(far), w.step(far), build.Var(0))
 	body := lams(rec, w.tree(q))
 	return w.core(tele.Pis(w.Params, tele.Pis(row, typ)), tele.Lams(w.Params, tele.Lams(row, body)))
 }
@@ -31,9 +32,9 @@ func (w *work) step(far int) api.Term {
 		branches = append(branches, w.at(c, far))
 	}
 	shape := pairs(bound(far), bound(far+1))
-	motive := lams(pis(w.fourPis(shape, far+2), w.plains(variable(0), far+1)), finite(n))
+	motive := lams(pis(w.fourPis(shape, far+2), w.plains(build.Var(0), far+1)), build.Fin(n))
 	choice := codes.Case(motive, branches, firsts(x)(far))
-	return lams(tele.Apps(choice, seconds(x)(far), variable(1), variable(0)), binders...)
+	return lams(tele.Apps(choice, seconds(x)(far), build.Var(1), build.Var(0)), binders...)
 }
 
 // at is what is done at the constructor c. Without plain arguments it is asked of the one tuple there is: only then does the method fit.
@@ -41,11 +42,11 @@ func (w *work) at(c, far int) api.Term {
 	r := rule{w, w.rules[c], c}
 	a := bound(far)
 	if r.plainCount() > 0 {
-		return lams(r.inner(a, far+1), w.plains(r.element(), far))
+		return lams(r.inner(a, far+1), w.plains(r.elem(), far))
 	}
-	motive := lams(w.fourPis(r.shape(bound(far+1)), far+2), finite(1))
-	only := r.inner(fixed(element(0, 1)), far+1)
-	return lams(codes.Case(motive, []api.Term{only}, a(far+1)), w.plains(r.element(), far))
+	motive := lams(w.fourPis(r.shape(bound(far+1)), far+2), build.Fin(1))
+	only := r.inner(fixed(build.Elem(0, 1)), far+1)
+	return lams(codes.Case(motive, []api.Term{only}, a(far+1)), w.plains(r.elem(), far))
 }
 
 // rule is the rule of a constructor at work.
@@ -55,10 +56,10 @@ type rule struct {
 	c   int
 }
 
-func (r rule) element() api.Term { return element(r.c, len(r.Ctors)) }
+func (r rule) elem() api.Term { return build.Elem(r.c, len(r.Ctors)) }
 
 // shape is its shape at a tuple of plain arguments.
-func (r rule) shape(a spot) spot { return pairs(fixed(r.element()), a) }
+func (r rule) shape(a spot) spot { return pairs(fixed(r.elem()), a) }
 
 func (r rule) recs() []int { return codes.Recs(r.own) }
 
@@ -93,9 +94,9 @@ func (r rule) inner(a spot, far int) api.Term {
 		last := seconds(seconds(g))
 		args = []spot{h, i, firsts(last), seconds(last)}
 	}
-	path := of(api.KJ, s.functions(far), s.table(far), s.motive(far), s.basis(far), f(far), p(far))
+	path := build.Of(api.KJ, s.functions(far), s.table(far), s.motive(far), s.basis(far), f(far), p(far))
 	for _, x := range args {
-		path = of(api.KApp, path, x(far))
+		path = build.Of(api.KApp, path, x(far))
 	}
 	return tele.Lams(types, path)
 }
@@ -103,13 +104,13 @@ func (r rule) inner(a spot, far int) api.Term {
 // rest are the types of what is still to be given once the functions are known.
 func (s scene) rest(f spot, far int) []api.Term {
 	x := s.shape(s.a)
-	equal := of(api.KId, s.indexType(far+2), s.want(far+2), variable(0))
+	equal := build.Of(api.KId, s.indexType(far+2), s.want(far+2), build.Var(0))
 	types := []api.Term{s.held(x, f, far), s.indexType(far + 1), equal}
 	if len(s.recs()) == 0 {
 		return types
 	}
 	far += 3
-	kid := func(far int) api.Term { return of(api.KApp, f(far), variable(0)) }
+	kid := func(far int) api.Term { return build.Of(api.KApp, f(far), build.Var(0)) }
 	isGood := tele.Apps(codes.Const(s.Decl, s.base+4, far+1), kid(far+1))
 	h := lams(isGood, s.place(x(far), far))
 	return append(types, good.Kids(s.Decl, s.own, s.a(far), h, far))
@@ -127,7 +128,7 @@ func (s scene) proof(p, e, kids spot) spot {
 func (s scene) motive(far int) api.Term {
 	f, p := bound(far), bound(far+1)
 	i, e, kids := bound(far+3), bound(far+4), bound(far+5)
-	equal := of(api.KId, s.functions(far+1), s.table(far+1), variable(0))
+	equal := build.Of(api.KId, s.functions(far+1), s.table(far+1), build.Var(0))
 	rest := s.rest(f, far+2)
 	end := s.mot(i, pairs(sups(s.shape(s.a), f), s.proof(p, e, kids)), far+2+len(rest))
 	return lams(tele.Pis(rest, end), s.functions(far), equal)
@@ -138,12 +139,12 @@ func (s scene) basis(far int) api.Term {
 	h, i, e, kids := bound(far), bound(far+1), bound(far+2), bound(far+3)
 	rest := s.rest(s.table, far)
 	far += len(rest)
-	refl := fixed(of(api.KRefl))
+	refl := fixed(build.Of(api.KRefl))
 	i2, e2 := bound(far), bound(far+1)
-	equal := of(api.KId, s.indexType(far+1), s.want(far+1), variable(0))
+	equal := build.Of(api.KId, s.indexType(far+1), s.want(far+1), build.Var(0))
 	end := s.mot(i2, pairs(sups(s.shape(s.a), s.table), s.proof(refl, e2, kids)), far+2)
 	motive := lams(end, s.indexType(far), equal)
-	path := of(api.KJ, s.indexType(far), s.want(far), motive, s.method(h, kids, far), i(far), e(far))
+	path := build.Of(api.KJ, s.indexType(far), s.want(far), motive, s.method(h, kids, far), i(far), e(far))
 	return tele.Lams(rest, path)
 }
 
@@ -164,11 +165,11 @@ func (s scene) method(h, kids spot, far int) api.Term {
 		row := codes.Tele(s.own, i, values, far)
 		n := len(row)
 		at := func(x api.Term) api.Term { return tele.Apps(term.Lift(x, n, 0), tele.Vars(n, 0)...) }
-		args = append(args, tele.Lams(row, of(api.KPair, at(trees[j]), at(proofs[j]))))
+		args = append(args, tele.Lams(row, build.Of(api.KPair, at(trees[j]), at(proofs[j]))))
 		wants := good.Wants(s.Decl, s.own, j, s.a(far), far)
 		told := tele.Apps(h(far+n), good.At(s.own, j), wants, at(proofs[j]))
 		held = append(held, tele.Lams(row, told))
 	}
-	method := variable(far - 1 - len(s.Members) - s.c)
+	method := build.Var(far - 1 - len(s.Members) - s.c)
 	return tele.Apps(tele.Apps(method, args...), held...)
 }

@@ -2,9 +2,11 @@ package infer
 
 import (
 	"spandrel/api"
+	"spandrel/build"
 	"spandrel/core"
 	"spandrel/level"
 	"spandrel/term"
+	"spandrel/throw"
 )
 
 // infers is how the type of a term of each kind is inferred; there is none of bare ones.
@@ -36,9 +38,7 @@ func (w *asker) variable(ctx []api.Term, t api.Term) api.Term {
 
 func (w *asker) universe(_ []api.Term, t api.Term) api.Term {
 	up := level.Succ(t.Levels[0])
-	if !level.Right(up, w.levels) {
-		panic(api.ErrLevel)
-	}
+	throw.Must(api.ErrLevel, level.Right(up, w.levels))
 	return universe(up)
 }
 
@@ -55,13 +55,13 @@ func (w *asker) binder(ctx []api.Term, t api.Term) api.Term {
 
 func (w *asker) lam(ctx []api.Term, t api.Term) api.Term {
 	w.sort(ctx, t.Kids[0])
-	return of(api.KPi, t.Kids[0], w.infer(below(ctx, t.Kids[0]), t.Kids[1]))
+	return build.Of(api.KPi, t.Kids[0], w.infer(below(ctx, t.Kids[0]), t.Kids[1]))
 }
 
 func (w *asker) app(ctx []api.Term, t api.Term) api.Term {
 	f := w.as(api.KPi, w.infer(ctx, t.Kids[0]), api.ErrFunc)
-	w.check(ctx, t.Kids[1], kid(f, 0))
-	return w.put(kid(f, 1), t.Kids[1])
+	w.check(ctx, t.Kids[1], build.Kid(f, 0))
+	return w.Put(build.Kid(f, 1), t.Kids[1])
 }
 
 func (w *asker) let(ctx []api.Term, t api.Term) api.Term { return w.infer(ctx, w.opened(ctx, t)) }
@@ -70,43 +70,43 @@ func (w *asker) let(ctx []api.Term, t api.Term) api.Term { return w.infer(ctx, w
 func (w *asker) opened(ctx []api.Term, t api.Term) api.Term {
 	w.sort(ctx, t.Kids[0])
 	w.check(ctx, t.Kids[1], t.Kids[0])
-	return w.put(t.Kids[2], t.Kids[1])
+	return w.Put(t.Kids[2], t.Kids[1])
 }
 
 func (w *asker) first(ctx []api.Term, t api.Term) api.Term {
-	return kid(w.as(api.KSigma, w.infer(ctx, t.Kids[0]), api.ErrPair), 0)
+	return build.Kid(w.as(api.KSigma, w.infer(ctx, t.Kids[0]), api.ErrPair), 0)
 }
 
 func (w *asker) second(ctx []api.Term, t api.Term) api.Term {
 	p := w.as(api.KSigma, w.infer(ctx, t.Kids[0]), api.ErrPair)
-	return w.put(kid(p, 1), of(api.KFst, t.Kids[0]))
+	return w.Put(build.Kid(p, 1), build.Of(api.KFst, t.Kids[0]))
 }
 
 // motive asks a motive over a type.
 func (w *asker) motive(ctx []api.Term, p, over api.Term) {
 	f := w.as(api.KPi, w.infer(ctx, p), api.ErrFunc)
-	w.one(kid(f, 0), over, api.ErrType)
-	w.as(api.KSort, kid(f, 1), api.ErrSort)
+	w.one(build.Kid(f, 0), over, api.ErrType)
+	w.as(api.KSort, build.Kid(f, 1), api.ErrSort)
 }
 
 func (w *asker) treeRec(ctx []api.Term, t api.Term) api.Term {
 	a, b, p, s, x := t.Kids[0], t.Kids[1], t.Kids[2], t.Kids[3], t.Kids[4]
 	w.sort(ctx, a)
 	w.sort(below(ctx, a), b)
-	tree := of(api.KTree, a, b)
+	tree := build.Of(api.KTree, a, b)
 	w.check(ctx, x, tree)
 	w.motive(ctx, p, tree)
 	w.check(ctx, s, step(tree, p))
-	return at(p, x)
+	return build.At(p, x)
 }
 
 // step is the type of what a KTreeRec does at a KSup.
 func step(tree, p api.Term) api.Term {
 	a, b := tree.Kids[0], tree.Kids[1]
 	far := term.Lift(p, 3, 0)
-	kids := of(api.KPi, b, term.Lift(tree, 2, 0))
-	held := of(api.KPi, term.Lift(b, 1, 0), at(far, at(variable(1), variable(0))))
-	return of(api.KPi, a, of(api.KPi, kids, of(api.KPi, held, at(far, of(api.KSup, variable(2), variable(1))))))
+	kids := build.Of(api.KPi, b, term.Lift(tree, 2, 0))
+	held := build.Of(api.KPi, term.Lift(b, 1, 0), build.At(far, build.At(build.Var(1), build.Var(0))))
+	return build.Of(api.KPi, a, build.Of(api.KPi, kids, build.Of(api.KPi, held, build.At(far, build.Of(api.KSup, build.Var(2), build.Var(1))))))
 }
 
 func (w *asker) id(ctx []api.Term, t api.Term) api.Term {
@@ -121,32 +121,32 @@ func (w *asker) path(ctx []api.Term, t api.Term) api.Term {
 	w.sort(ctx, typ)
 	w.check(ctx, a, typ)
 	w.check(ctx, b, typ)
-	w.check(ctx, x, of(api.KId, typ, a, b))
+	w.check(ctx, x, build.Of(api.KId, typ, a, b))
 	f := w.as(api.KPi, w.infer(ctx, p), api.ErrFunc)
-	w.one(kid(f, 0), typ, api.ErrType)
-	g := w.as(api.KPi, kid(f, 1), api.ErrFunc)
-	w.one(kid(g, 0), of(api.KId, term.Lift(typ, 1, 0), term.Lift(a, 1, 0), variable(0)), api.ErrType)
-	w.as(api.KSort, kid(g, 1), api.ErrSort)
-	w.check(ctx, d, at(p, a, of(api.KRefl)))
-	return at(p, b, x)
+	w.one(build.Kid(f, 0), typ, api.ErrType)
+	g := w.as(api.KPi, build.Kid(f, 1), api.ErrFunc)
+	w.one(build.Kid(g, 0), build.Of(api.KId, term.Lift(typ, 1, 0), term.Lift(a, 1, 0), build.Var(0)), api.ErrType)
+	w.as(api.KSort, build.Kid(g, 1), api.ErrSort)
+	w.check(ctx, d, build.At(p, a, build.Of(api.KRefl)))
+	return build.At(p, b, x)
 }
 
 func (w *asker) finite(_ []api.Term, _ api.Term) api.Term { return universe(api.Level{}) }
 
 func (w *asker) element(_ []api.Term, t api.Term) api.Term {
-	return api.Term{Kind: api.KFin, Num: t.At}
+	return build.Fin(t.At)
 }
 
 func (w *asker) choice(ctx []api.Term, t api.Term) api.Term {
 	n := t.At
-	fin := api.Term{Kind: api.KFin, Num: n}
+	fin := build.Fin(n)
 	p, x := t.Kids[0], t.Kids[n+1]
 	w.check(ctx, x, fin)
 	w.motive(ctx, p, fin)
 	for k, branch := range t.Kids[1 : n+1] {
-		w.check(ctx, branch, at(p, api.Term{Kind: api.KElem, Num: k, At: n}))
+		w.check(ctx, branch, build.At(p, build.Elem(k, n)))
 	}
-	return at(p, x)
+	return build.At(p, x)
 }
 
 // checks is how terms of some kinds are held against a type; others are inferred.
@@ -163,27 +163,27 @@ func checks() map[api.TermKind]func(w *asker, ctx []api.Term, t, typ api.Term) {
 func (w *asker) checkLam(ctx []api.Term, t, typ api.Term) {
 	f := w.as(api.KPi, typ, api.ErrFunc)
 	w.sort(ctx, t.Kids[0])
-	w.one(t.Kids[0], kid(f, 0), api.ErrType)
-	w.check(below(ctx, t.Kids[0]), t.Kids[1], kid(f, 1))
+	w.one(t.Kids[0], build.Kid(f, 0), api.ErrType)
+	w.check(below(ctx, t.Kids[0]), t.Kids[1], build.Kid(f, 1))
 }
 
 func (w *asker) checkPair(ctx []api.Term, t, typ api.Term) {
 	p := w.as(api.KSigma, typ, api.ErrPair)
-	w.check(ctx, t.Kids[0], kid(p, 0))
-	w.check(ctx, t.Kids[1], w.put(kid(p, 1), t.Kids[0]))
+	w.check(ctx, t.Kids[0], build.Kid(p, 0))
+	w.check(ctx, t.Kids[1], w.Put(build.Kid(p, 1), t.Kids[0]))
 }
 
 func (w *asker) checkSup(ctx []api.Term, t, typ api.Term) {
 	tree := w.as(api.KTree, typ, api.ErrTree)
-	w.check(ctx, t.Kids[0], kid(tree, 0))
-	places := w.put(kid(tree, 1), t.Kids[0])
-	again := of(api.KTree, kid(tree, 0), kid(tree, 1))
-	w.check(ctx, t.Kids[1], of(api.KPi, places, term.Lift(again, 1, 0)))
+	w.check(ctx, t.Kids[0], build.Kid(tree, 0))
+	places := w.Put(build.Kid(tree, 1), t.Kids[0])
+	again := build.Of(api.KTree, build.Kid(tree, 0), build.Kid(tree, 1))
+	w.check(ctx, t.Kids[1], build.Of(api.KPi, places, term.Lift(again, 1, 0)))
 }
 
 func (w *asker) checkRefl(_ []api.Term, _, typ api.Term) {
 	id := w.as(api.KId, typ, api.ErrPath)
-	w.one(kid(id, 1), kid(id, 2), api.ErrPath)
+	w.one(build.Kid(id, 1), build.Kid(id, 2), api.ErrPath)
 }
 
 func (w *asker) checkLet(ctx []api.Term, t, typ api.Term) { w.check(ctx, w.opened(ctx, t), typ) }

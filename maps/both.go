@@ -4,6 +4,7 @@ import (
 	"slices"
 
 	"spandrel/api"
+	"spandrel/build"
 	"spandrel/tele"
 )
 
@@ -50,11 +51,11 @@ func (w *work) method(c int, from, to member, assumed func(i int) bool) *method 
 func (m *method) far() int { return len(m.types) }
 
 // arg is the variable of an argument.
-func (m *method) arg(i int) api.Term { return variable(m.far() - 1 - i) }
+func (m *method) arg(i int) api.Term { return build.Var(m.far() - 1 - i) }
 
 // assumption is the variable of what is assumed of an argument.
 func (m *method) assumption(i int) api.Term {
-	return variable(len(m.held) - 1 - slices.Index(m.held, i))
+	return build.Var(len(m.held) - 1 - slices.Index(m.held, i))
 }
 
 // args are the arguments as they become.
@@ -136,6 +137,6 @@ func (m *method) mapped(j int, a api.Arg) api.Term {
 	i := m.instance(a.Member)
 	n, far := len(a.Tele), m.far()-j
 	f := tele.Apps(m.from(i, a.Member-m.list[i].First), tele.Vars(len(m.Params), m.far()+n)...)
-	x := tele.Apps(variable(far-1+n), tele.Vars(n, 0)...)
+	x := tele.Apps(build.Var(far-1+n), tele.Vars(n, 0)...)
 	return tele.Lams(tele.Lifts(a.Tele, far, 0), tele.Apps(f, append(lifts(a.Index, far, n), x)...))
 }

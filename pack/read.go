@@ -3,19 +3,11 @@ package pack
 import (
 	"spandrel/api"
 	"spandrel/term"
+	"spandrel/throw"
 )
 
-// wrong is thrown where bytes are those of no right thing.
-type wrong struct{}
-
-// must throws, unless all holds.
-func must(all ...bool) {
-	for _, holds := range all {
-		if !holds {
-			panic(wrong{})
-		}
-	}
-}
+// must ends the reading, unless all holds: then bytes are those of no right thing.
+func must(all ...bool) { throw.Must(api.ErrShape, all...) }
 
 // place is how far bytes are read.
 type place struct {
@@ -42,7 +34,7 @@ func (p *place) number() int {
 			return n
 		}
 	}
-	panic(wrong{})
+	panic(api.ErrShape)
 }
 
 // upTo reads a number that is at most so.
@@ -60,15 +52,12 @@ type reader struct {
 }
 
 // read reads a thing, and tells how many bytes it has, and whether there is one.
-func read[T any](b []byte, get func(r *reader) T) (out T, n int, ok bool) {
-	defer func() {
-		if recover() != nil {
-			var none T
-			out, n, ok = none, 0, false
-		}
-	}()
+func read[T any](b []byte, get func(r *reader) T) (T, int, bool) {
 	r := &reader{place: place{bytes: b}, shapes: shapes()}
-	out = get(r)
+	out, e := throw.Told(api.ErrShape, func() T { return get(r) })
+	if e != api.OK {
+		return out, 0, false
+	}
 	return out, r.at, true
 }
 

@@ -6,6 +6,7 @@ import (
 
 	"spandrel/api"
 	"spandrel/lines"
+	"spandrel/throw"
 )
 
 // declared is a declaration, and its names.
@@ -23,10 +24,10 @@ type declarer struct {
 
 // wordsOf are the words that a list of words is.
 func wordsOf(x lines.Expr) []string {
-	must(api.ErrShape, x.Word == "")
+	throw.Must(api.ErrShape, x.Word == "")
 	var out []string
 	for _, kid := range x.Kids {
-		must(api.ErrShape, kid.Word != "")
+		throw.Must(api.ErrShape, kid.Word != "")
 		out = append(out, kid.Word)
 	}
 	return out
@@ -34,12 +35,12 @@ func wordsOf(x lines.Expr) []string {
 
 // firsts are the words that lists begin with, the first of which are so many words.
 func firsts(x lines.Expr, count int) []string {
-	must(api.ErrShape, x.Word == "")
+	throw.Must(api.ErrShape, x.Word == "")
 	var out []string
 	for _, kid := range x.Kids {
-		must(api.ErrShape, kid.Word == "" && len(kid.Kids) >= count)
+		throw.Must(api.ErrShape, kid.Word == "" && len(kid.Kids) >= count)
 		for _, w := range kid.Kids[:count] {
-			must(api.ErrShape, w.Word != "")
+			throw.Must(api.ErrShape, w.Word != "")
 		}
 		out = append(out, kid.Kids[0].Word)
 	}
@@ -49,13 +50,13 @@ func firsts(x lines.Expr, count int) []string {
 // fresh asks whether words may be names, those for level variables and those that are names from then on, and whether these are none yet.
 func (d *declarer) fresh(levels []string, names ...string) {
 	for _, w := range levels {
-		must(api.ErrArg, nameable(w))
+		throw.Must(api.ErrArg, nameable(w))
 	}
 	for i, w := range names {
 		_, known := d.name(w)
-		must(api.ErrArg, nameable(w), !known, !among(w, names[:i]...))
+		throw.Must(api.ErrArg, nameable(w), !known, !among(w, names[:i]...))
 	}
-	must(api.ErrLong, len(levels) <= api.MaxVars)
+	throw.Must(api.ErrLong, len(levels) <= api.MaxVars)
 	d.levels = levels
 }
 
@@ -66,7 +67,7 @@ func (d *declarer) kept(word string, k api.TermKind, at int) Name {
 
 // constant tells an axiom or a definition.
 func (d *declarer) constant(k api.DeclKind, kids int) declared {
-	must(api.ErrShape, len(d.kids) == kids && d.kids[1].Word != "")
+	throw.Must(api.ErrShape, len(d.kids) == kids && d.kids[1].Word != "")
 	word := d.kids[1].Word
 	d.fresh(wordsOf(d.kids[2]), word)
 	t := start(d.words)
@@ -83,12 +84,12 @@ func (d *declarer) def() declared { return d.constant(api.DeclDef, 5) }
 
 // block tells a block.
 func (d *declarer) block() declared {
-	must(api.ErrShape, len(d.kids) == 6)
+	throw.Must(api.ErrShape, len(d.kids) == 6)
 	levels := wordsOf(d.kids[1])
-	must(api.ErrShape, d.kids[2].Word == "")
+	throw.Must(api.ErrShape, d.kids[2].Word == "")
 	members, ctors := firsts(d.kids[4], 1), firsts(d.kids[5], 2)
 	for _, c := range d.kids[5].Kids {
-		must(api.ErrShape, len(c.Kids) == 3)
+		throw.Must(api.ErrShape, len(c.Kids) == 3)
 	}
 	d.fresh(levels, slices.Concat(members, ctors)...)
 	out := api.Decl{Kind: api.DeclBlock, Levels: len(levels)}
@@ -103,7 +104,7 @@ func (d *declarer) block() declared {
 	t.members = members
 	for _, c := range d.kids[5].Kids {
 		m := slices.Index(members, c.Kids[1].Word)
-		must(api.ErrNone, m >= 0)
+		throw.Must(api.ErrNone, m >= 0)
 		out.Ctors = append(out.Ctors, api.Ctor{Member: m, Type: t.term(c.Kids[2], params)})
 	}
 	return declared{out, d.blockNames(members, ctors)}
@@ -123,11 +124,11 @@ func (d *declarer) blockNames(members, ctors []string) []Name {
 
 // Decl is the declaration that a tree tells, and its names.
 func Decl(names []Name, num int, x lines.Expr) (api.Decl, []Name, api.Errno) {
-	out, e := told(func() declared {
-		must(api.ErrShape, x.Word == "" && len(x.Kids) > 0)
+	out, e := throw.Told(api.ErrShape, func() declared {
+		throw.Must(api.ErrShape, x.Word == "" && len(x.Kids) > 0)
 		d := &declarer{words{names: names}, num, x.Kids}
 		tell, ok := map[string]func() declared{"axiom": d.axiom, "def": d.def, "block": d.block}[x.Kids[0].Word]
-		must(api.ErrShape, ok)
+		throw.Must(api.ErrShape, ok)
 		return tell()
 	})
 	return out.decl, out.names, e

@@ -9,6 +9,7 @@ import (
 	"spandrel/lines"
 	"spandrel/tele"
 	"spandrel/term"
+	"spandrel/throw"
 )
 
 func word(w string) lines.Expr { return lines.Expr{Word: w} }
@@ -42,7 +43,7 @@ func (w layer) part(p api.Part) lines.Expr {
 	if p.Var == 0 {
 		return plus
 	}
-	must(api.ErrNone, p.Var <= len(w.levels))
+	throw.Must(api.ErrNone, p.Var <= len(w.levels))
 	v := word(w.levels[p.Var-1])
 	if p.Plus == 0 {
 		return v
@@ -53,7 +54,7 @@ func (w layer) part(p api.Part) lines.Expr {
 // named lays a name of a kind, at a term's levels, behind a word.
 func (w layer) named(first string, k api.TermKind, t api.Term) lines.Expr {
 	i := slices.IndexFunc(w.names, func(n Name) bool { return n.Kind == k && n.Num == t.Num && n.At == t.At })
-	must(api.ErrNone, i >= 0)
+	throw.Must(api.ErrNone, i >= 0)
 	kids := []lines.Expr{word(first), word(w.names[i].Word)}
 	for _, l := range t.Levels {
 		kids = append(kids, w.level(l))
@@ -65,10 +66,10 @@ func (w layer) named(first string, k api.TermKind, t api.Term) lines.Expr {
 func (w layer) term(t api.Term, below int) lines.Expr {
 	switch t.Kind {
 	case api.KVar:
-		must(api.ErrNone, t.Num >= 0, t.Num < below)
+		throw.Must(api.ErrNone, t.Num >= 0, t.Num < below)
 		return variable(below - 1 - t.Num)
 	case api.KSort:
-		must(api.ErrShape, len(t.Levels) == 1)
+		throw.Must(api.ErrShape, len(t.Levels) == 1)
 		return listOf(word("type"), w.level(t.Levels[0]))
 	case api.KConst, api.KInd, api.KCtor:
 		x := w.named("at", t.Kind, t)
@@ -92,7 +93,7 @@ func (w layer) term(t api.Term, below int) lines.Expr {
 
 // bound lays a term whose last kid stands below its binder.
 func (w layer) bound(first string, t api.Term, kids, below int) lines.Expr {
-	must(api.ErrShape, len(t.Kids) == kids)
+	throw.Must(api.ErrShape, len(t.Kids) == kids)
 	binder := []lines.Expr{variable(below)}
 	for _, kid := range t.Kids[:kids-1] {
 		binder = append(binder, w.term(kid, below))
@@ -103,7 +104,7 @@ func (w layer) bound(first string, t api.Term, kids, below int) lines.Expr {
 // spine lays a term at arguments.
 func (w layer) spine(t api.Term, below int) lines.Expr {
 	head, args := tele.Spine(t)
-	must(api.ErrShape, len(args) > 0)
+	throw.Must(api.ErrShape, len(args) > 0)
 	kids := []lines.Expr{w.term(head, below)}
 	for _, a := range args {
 		kids = append(kids, w.term(a, below))
@@ -113,7 +114,7 @@ func (w layer) spine(t api.Term, below int) lines.Expr {
 
 // Show is a tree that tells a term.
 func Show(names []Name, levels []string, t api.Term) (lines.Expr, bool) {
-	x, e := told(func() lines.Expr { return layer{words{names: names, levels: levels}}.term(t, 0) })
+	x, e := throw.Told(api.ErrShape, func() lines.Expr { return layer{words{names: names, levels: levels}}.term(t, 0) })
 	if e != api.OK {
 		return lines.Expr{}, false
 	}
