@@ -47,6 +47,13 @@ func firsts(x lines.Expr, count int) []string {
 	return out
 }
 
+// binders asks whether trees are binders: of a declaration the shapes of all of them come ahead of its words.
+func binders(trees []lines.Expr) {
+	for _, x := range trees {
+		throw.Must(api.ErrShape, binder(x))
+	}
+}
+
 // fresh asks whether words may be names, those for level variables and those that are names from then on, and whether these are none yet.
 func (d *declarer) fresh(levels []string, names ...string) {
 	for _, w := range levels {
@@ -82,15 +89,25 @@ func (d *declarer) axiom() declared { return d.constant(api.DeclAxiom, 4) }
 
 func (d *declarer) def() declared { return d.constant(api.DeclDef, 5) }
 
-// block tells a block.
-func (d *declarer) block() declared {
+// shaped are the words of a block: for level variables, of its members, of its constructors; all its lists must have their shapes.
+func (d *declarer) shaped() (levels, members, ctors []string) {
 	throw.Must(api.ErrShape, len(d.kids) == 6)
-	levels := wordsOf(d.kids[1])
+	levels = wordsOf(d.kids[1])
 	throw.Must(api.ErrShape, d.kids[2].Word == "")
-	members, ctors := firsts(d.kids[4], 1), firsts(d.kids[5], 2)
+	binders(d.kids[2].Kids)
+	members, ctors = firsts(d.kids[4], 1), firsts(d.kids[5], 2)
+	for _, m := range d.kids[4].Kids {
+		binders(m.Kids[1:])
+	}
 	for _, c := range d.kids[5].Kids {
 		throw.Must(api.ErrShape, len(c.Kids) == 3)
 	}
+	return levels, members, ctors
+}
+
+// block tells a block.
+func (d *declarer) block() declared {
+	levels, members, ctors := d.shaped()
 	d.fresh(levels, slices.Concat(members, ctors)...)
 	out := api.Decl{Kind: api.DeclBlock, Levels: len(levels)}
 	t := start(d.words)

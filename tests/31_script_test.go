@@ -127,7 +127,7 @@ func TestP31_1_Decl(t *testing.T) {
 		{"(axiom pi () nat)", api.ErrArg}, {"(axiom 7 () nat)", api.ErrArg}, {"(axiom a (3) nat)", api.ErrArg}, {"(axiom a (max) nat)", api.ErrArg}, {"(axiom nat () what)", api.ErrArg}, {"(axiom zero () what)", api.ErrArg}, {"(axiom nat ((u)) what)", api.ErrShape}, {"(axiom nat (a b c d e f g h i) what)", api.ErrArg}, {"(axiom q (a b c d e f g h i) what)", api.ErrLong}, {"(axiom q (a b c d e f g h) what)", api.ErrNone}, {"(axiom q () q)", api.ErrNone}, {"(axiom q (u) u)", api.ErrNone}, {"(axiom q () (type u))", api.ErrNone},
 		{"(def q () nat)", api.ErrShape}, {"(def q () what 3)", api.ErrNone}, {"(def q () 3 what)", api.ErrShape}, {"(def q () nat what)", api.ErrNone}, {"(def q () nat list)", api.ErrLevel}, {"(def one () nat zero)", api.ErrArg}, {"(def q () nat q)", api.ErrNone},
 		{"(block () () 0 ())", api.ErrShape}, {"(block () () 0 () () ())", api.ErrShape}, {"(block u () 0 () ())", api.ErrShape}, {"(block () u 0 () ())", api.ErrShape}, {"(block () () 0 u ())", api.ErrShape}, {"(block () () 0 () u)", api.ErrShape}, {"(block () () 0 (M) ())", api.ErrShape}, {"(block () () 0 (()) ())", api.ErrShape}, {"(block () () 0 (((M))) ())", api.ErrShape}, {"(block () () 0 ((M)) (C))", api.ErrShape}, {"(block () () 0 ((M)) ((C M)))", api.ErrShape}, {"(block () () 0 ((M)) ((C M M M)))", api.ErrShape}, {"(block () () 0 ((M)) (((C) M M)))", api.ErrShape}, {"(block () () 0 ((M)) ((C (M) M)))", api.ErrShape},
-		{"(block (3) () 0 ((M)) ((C (M) M)))", api.ErrShape}, {"(block () ((A)) what ((nat)) ())", api.ErrArg}, {"(block () ((A)) what ((M)) ())", api.ErrShape}, {"(block () ((A what)) 07 ((M)) ())", api.ErrNone}, {"(block () ((A what) (B)) 07 ((M)) ())", api.ErrNone}, {"(block () () 07 ((M (3 nat))) ())", api.ErrShape}, {"(block () () w ((M (3 nat))) ())", api.ErrNone}, {"(block () () 0 ((M (i nat) (3 nat))) ((C D E)))", api.ErrShape}, {"(block () () 0 ((M (i what))) ((C D (E))))", api.ErrNone},
+		{"(block (3) () 0 ((M)) ((C (M) M)))", api.ErrShape}, {"(block () ((A)) what ((nat)) ())", api.ErrShape}, {"(block () ((A)) what ((M)) ())", api.ErrShape}, {"(block () ((A what)) 07 ((M)) ())", api.ErrNone}, {"(block () ((A what) (B)) 07 ((M)) ())", api.ErrShape}, {"(block () () 07 ((M (3 nat))) ())", api.ErrShape}, {"(block () () w ((M (3 nat))) ())", api.ErrShape}, {"(block () () 07 ((M (i what))) ())", api.ErrShape}, {"(block () () w ((M (i 3))) ())", api.ErrNone}, {"(block () () 0 ((M (i nat) (3 nat))) ((C D E)))", api.ErrShape}, {"(block () () 0 ((M (i what))) ((C D (E))))", api.ErrNone},
 		{"(block () () 0 ((pi)) ())", api.ErrArg}, {"(block () () 0 ((M) (M)) ())", api.ErrArg}, {"(block () () 0 ((M)) ((M M M)))", api.ErrArg}, {"(block () () 0 ((M)) ((C M M) (C M M)))", api.ErrArg}, {"(block () () 0 ((M)) ((zero M M)))", api.ErrArg}, {"(block () () 0 ((M)) ((7 M M)))", api.ErrArg}, {"(block (0) () 0 ((M)) ())", api.ErrArg}, {"(block (a b c d e f g h i) () w ((M)) ())", api.ErrLong}, {"(block (a b c d e f g h i) () w ((M) (M)) ())", api.ErrArg},
 		{"(block () () 0 ((M)) ((C D M)))", api.ErrNone}, {"(block () () 0 ((M)) ((C nat M)))", api.ErrNone}, {"(block () () 0 ((M)) ((C M 3) (D E M)))", api.ErrShape}, {"(block () () 0 ((M)) ((C M M) (D E 3)))", api.ErrNone}, {"(block () ((A M)) 0 ((M)) ())", api.ErrNone}, {"(block () () 0 ((M (i M))) ())", api.ErrNone}, {"(block () () 0 ((M (i nat))) ((C M i)))", api.ErrNone}, {"(block () () 0 ((M)) ((C M C)))", api.ErrNone},
 	} {
@@ -135,6 +135,42 @@ func TestP31_1_Decl(t *testing.T) {
 		if e != c.e || !same(d, api.Decl{}) || names != nil {
 			t.Error(c.text, e)
 		}
+	}
+}
+
+// TestP31_1_BlockShapes: the shapes of all lists of a block, its binders' too, come ahead of its words, of how many these are, and of what its trees tell.
+func TestP31_1_BlockShapes(t *testing.T) {
+	nine := "(a b c d e f g h i)"
+	for _, b := range []string{"A", "3", "()", "(A)", "(A nat nat)", "(3 nat)", "(07 nat)", "(pi nat)", "((A) nat)", "((A nat))", "(() nat)"} {
+		for _, text := range []string{
+			"(block () (" + b + ") 0 ((M)) ())", "(block () ((A nat) " + b + ") 0 ((M)) ())", "(block () ((A what) " + b + ") w ((M)) ())",
+			"(block () (" + b + ") 0 ((nat)) ())", "(block () (" + b + ") 0 ((M) (M)) ())", "(block () (" + b + ") 0 ((pi)) ())", "(block () (" + b + ") 0 ((M)) ((zero M M)))", "(block (7) (" + b + ") 0 ((M)) ())", "(block " + nine + " (" + b + ") 0 ((M)) ())",
+			"(block () () 0 ((M " + b + ")) ())", "(block () () 0 ((M) (N (i nat) " + b + ")) ())", "(block () ((A what)) w ((M " + b + ")) ())", "(block () () 0 ((M (i what)) (N " + b + ")) ())",
+			"(block () () 0 ((nat " + b + ")) ())", "(block () () 0 ((M " + b + ") (M)) ())", "(block () () 0 ((M) (M " + b + ")) ())", "(block () () 0 ((M " + b + ")) ((C M M) (C M M)))", "(block (max) () 0 ((M " + b + ")) ())", "(block " + nine + " () 0 ((M " + b + ")) ())",
+		} {
+			d, names, e := script.Decl(natNames(), 4, read(t, text))
+			if e != api.ErrShape || !same(d, api.Decl{}) || names != nil {
+				t.Error(text, e)
+			}
+		}
+	}
+	for text, e := range map[string]api.Errno{
+		"(block () ((A 3)) 07 ((nat (i ()))) ((C D ())))": api.ErrArg, "(block " + nine + " ((A 3)) 07 ((M (i ()))) ((C D ())))": api.ErrLong, "(block () ((A what)) 07 ((M (i ()))) ((C D ())))": api.ErrNone, "(block () ((A nat) (B (pi (3 A) A))) w ((M)) ())": api.ErrShape, "(block () ((A nat)) w ((M (i ()))) ())": api.ErrNone, "(block () ((A nat) (nat nat)) 0 ((M (A nat) (A nat))) ())": api.OK,
+	} {
+		if _, _, got := script.Decl(natNames(), 4, read(t, text)); got != e {
+			t.Error(text, got)
+		}
+	}
+	kids := lines.Expr{Word: "A", Kids: trees(word("B"), word("nat"))}
+	whole := read(t, "(block () () 0 ((nat)) ())")
+	whole.Kids[2].Kids = trees(kids)
+	if _, _, e := script.Decl(natNames(), 4, whole); e != api.ErrShape {
+		t.Error("a binder with a word is that word", e)
+	}
+	whole = read(t, "(block () (((A) nat)) 0 ((M)) ())")
+	whole.Kids[2].Kids[0].Kids[0] = kids
+	if _, _, e := script.Decl(natNames(), 4, whole); e != api.OK {
+		t.Error("a binder's word with kids is that word", e)
 	}
 }
 
